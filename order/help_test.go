@@ -194,7 +194,7 @@ func manyLattices(seed int64, n int) iter.Seq[api.Table] {
 // rising returns a table without cycles in which all elements are above the first one.
 func rising(r *rand.Rand) api.Table {
 	out := emptyTable(1 + r.Intn(api.MaxElems))
-	place := append([]int{0}, r.Perm(len(out.Elems) - 1)...)
+	place := append([]int{0}, r.Perm(len(out.Elems)-1)...)
 	often := 1 + r.Intn(5)
 	for a := range out.Elems {
 		for b := 1; b < len(out.Elems); b++ {
