@@ -92,7 +92,7 @@ func instructions(t *testing.T, call func(at int, i api.Ins, test func(what stri
 					l[at].Cases[n].To += 2
 				}
 			}
-			x.Site, x.Cases = cheap(x, i), slices.Clone(x.Cases)
+			x.Site, x.Cases = otherSite(x, i), slices.Clone(x.Cases)
 			d.Segments[0].Ins = slices.Insert(l, 0, api.Ins{Op: api.OJump, N: 2}, x)
 			if e := code.Check(d); (e == api.ErrForm) == right && at > 0 {
 				t.Errorf("%s, not reached: %v", what, e)
@@ -107,8 +107,8 @@ func instructions(t *testing.T, call func(at int, i api.Ins, test func(what stri
 	}
 }
 
-// cheap returns a site in the place of that of an instruction: another one, if it is still its own one.
-func cheap(x, before api.Ins) int {
+// otherSite returns a site in the place of that of an instruction: another one, if it is still its own one.
+func otherSite(x, before api.Ins) int {
 	if x.Site == before.Site && len(fieldsOf(x.Op)) > 0 && slices.Contains(fieldsOf(x.Op), "Site") {
 		return 500
 	}

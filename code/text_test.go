@@ -13,32 +13,17 @@ import (
 // P7.6: the text of a module, and the module with a text.
 func TestText(t *testing.T) {
 	for _, s := range []string{
-		"", exampleText, wholeText, callsText, shapesText, "shape map(map(map(set)))\n", "lattice l { a }\n", "lattice l { a }\nshape l\n", "lattice l { a }\nlattice m { b!: c; c!; d: b }\n",
+		"", exampleText, wholeText, callsText, shapesText, "shape map(map(map(set)))\n", "lattice l { a }\n", "lattice l { a }\nshape l\n", "lattice l { a }\nlattice m { b: c; c! }\nshape map(m)\nshape m\n",
 		"use a\n", "use a int int\nuse b.9\n", "shape max\nuse far s0 v0 int v0\n", segmentText("a 0", "halt"), segmentText("a 60 int", "fail r0"), "shape max\n" + segmentText("a 3 v0 s0 int", "halt"),
 	} {
-		if strings.Contains(s, "b!: c") {
-			// It is no lattice.
-			if _, e := code.Parse(s); e != api.ErrForm {
-				t.Errorf("Parse of %q: %v", s, e)
-			}
-			continue
-		}
 		c := mustParse(t, s)
 		if again := mustText(t, c); again != s {
 			t.Errorf("Text: %s, and not %s", again, s)
 		}
-		if d := readCode2(t, s); !sameCode(c, d) {
+		if d := readCode(t, s); !sameCode(c, d) {
 			t.Errorf("Parse: %v, and not %v", c, d)
 		}
 	}
-}
-
-// readCode2 reads as readCode does, also a text without lines.
-func readCode2(t *testing.T, s string) api.Code {
-	if s == "" {
-		return api.Code{}
-	}
-	return readCode(t, s)
 }
 
 // P7.6: each instruction, and its text.
@@ -115,7 +100,7 @@ func TestTextOfNone(t *testing.T) {
 		strings.Replace(exampleText, "  all", "   all", 1), strings.Replace(exampleText, "  all", " all", 1), strings.Replace(exampleText, "  all", "\tall", 1), strings.Replace(exampleText, "halt\n", "halt \n", 1), strings.Replace(exampleText, "halt\n", "halt%\n", 1),
 		strings.Replace(exampleText, "own", "mine", 1), strings.Replace(exampleText, "  all 1\n", "", 1), strings.Replace(exampleText, "main 4", "main 04", 1), strings.Replace(exampleText, "main 4", "main +4", 1), strings.Replace(exampleText, "main 4", "main r4", 1), strings.Replace(exampleText, "main 4", "main 4 ", 1), strings.Replace(exampleText, "main 4", "main", 1), strings.Replace(exampleText, "main 4", "main 4 4", 1), strings.Replace(exampleText, "main 4", "4 main", 1), strings.Replace(exampleText, "segment main", "segment  main", 1), strings.Replace(exampleText, "segment main", "task main", 1), strings.Replace(exampleText, "shape set", "shape  set", 1), strings.Replace(exampleText, "shape set", "shape set ", 1), strings.Replace(exampleText, "shape set", "shape sets", 1), strings.Replace(exampleText, "shape set", "set", 1),
 		"shape\n", "shape min\n", "shape max\nshape max\n", "shape map(max, set)\n", "shape pair(max,set)\n", "shape map(map(map(map(max))))\n", "shape l\n", "use\n", "use \n", "use a \n", "use A\n", "use a s0\n", "use a v0\n", "use a -1\n", "use a int,int\n", "use a\nuse a\n", "use a\nshape max\n", "shape max\nlattice l { a }\n", "shape max\nuse a s00\n", "shape max\nuse a s-0\n", "shape max\nuse a v-1\n", "shape max\nuse a r0\n", "shape max\nuse a 0\n",
-		"lattice l { a }", "lattice l {a}\n", "lattice l { a }\nlattice l { a }\n", "lattice l { a: b; b: a }\n", "lattice l { }\n",
+		"lattice l { a }", "lattice l {a}\n", "lattice l { a }\nlattice l { a }\n", "lattice l { a: b; b: a }\n", "lattice l { a }\nlattice m { b!: c; c! }\n", "lattice l { }\n",
 		segmentText("a 0", "halt") + "use b\n", segmentText("a 0", "halt") + "shape max\n", segmentText("a 0", "halt") + segmentText("a 0", "halt"), segmentText("a 0"), segmentText("a 0", "note"), segmentText("a 0", "jump 0", "halt"), segmentText("a 0", "jump 1", "halt") + "  halt", segmentText("a 99999999999999999999", "halt"), segmentText("a 1 int", "int r0 99999999999999999999", "halt"), segmentText("a -1", "halt"), segmentText("a 61", "halt"), segmentText("a 1 v9223372036854775807", "halt"), segmentText("a 1 v9223372036854775806", "halt"), segmentText("a 1 s-1", "halt"), segmentText("a 1 s-2", "halt"),
 		strings.Repeat("shape max\n", 41), strings.Repeat("x\n", 30000), strings.Repeat("shape map(\n", 5000), "shape " + strings.Repeat("map(", 14000) + "\n", "shape " + strings.Repeat("pair(", 11000) + "\n", "use " + strings.Repeat("a ", 29000) + "\n", segmentText("a 0", strings.Repeat("halt ", 11000)),
 	} {

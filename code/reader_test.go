@@ -20,7 +20,8 @@ func readAny(t *testing.T, instructions ...string) api.Code {
 func readCode(t *testing.T, s string) api.Code {
 	t.Helper()
 	var out api.Code
-	for _, line := range strings.Split(strings.TrimSuffix(s, "\n"), "\n") {
+	for line := range strings.Lines(s) {
+		line = strings.TrimSuffix(line, "\n")
 		w := strings.Fields(line)
 		var e api.Errno
 		switch {
@@ -83,7 +84,7 @@ func readKinds(t *testing.T, l []string) []int {
 	return out
 }
 
-// readIns returns the instruction with some words. It looks for the one that has this text: of each word of a line there are not many things that it can be.
+// readIns returns the instruction with some words: what each can be is known by how it begins.
 func readIns(t *testing.T, line string, w []string) api.Ins {
 	t.Helper()
 	var i api.Ins
